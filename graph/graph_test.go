@@ -7,6 +7,7 @@ import (
 
 	"cohesion/api"
 	"cohesion/graph"
+	"cohesion/probe"
 )
 
 // smallEdges are all pairs of numbers from -1 to 3, in both orders and with equal ends.
@@ -63,7 +64,7 @@ func firstError(g api.Graph) api.Errno {
 }
 
 func TestP3_1CheckIsItsDefinition(t *testing.T) {
-	for _, l := range listsOver(smallEdges(), 3) {
+	for _, l := range probe.Lists(smallEdges(), 3) {
 		for _, nodes := range []int{-1, 0, 1, 2, 3, 4, 64, 65} {
 			g := api.Graph{Nodes: nodes, Edges: l}
 			if got, want := graph.Check(g), firstError(g); got != want {
@@ -111,7 +112,7 @@ func TestP3_1OfReturnsItsErrorsInOrder(t *testing.T) {
 }
 
 func TestP3_1OfIsItsDefinition(t *testing.T) {
-	for _, l := range listsOver(smallEdges(), 3) {
+	for _, l := range probe.Lists(smallEdges(), 3) {
 		for nodes := -1; nodes <= 4; nodes++ {
 			want, wantedError := api.Graph{}, api.OK
 			isNode := func(x int) bool { return 0 <= x && x < nodes }

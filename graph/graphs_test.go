@@ -121,24 +121,6 @@ func around(g api.Graph) []int {
 	return l
 }
 
-// listsOver returns all lists of at most length elements, each of them one of the numbers: nil, sets, lists out of
-// order and lists with repetitions.
-func listsOver[T any](elements []T, length int) [][]T {
-	all := [][]T{nil}
-	longest := all
-	for range length {
-		var longer [][]T
-		for _, l := range longest {
-			for _, x := range elements {
-				longer = append(longer, append(slices.Clone(l), x))
-			}
-		}
-		all = append(all, longer...)
-		longest = longer
-	}
-	return all
-}
-
 // setsOf returns lists of nodes of a graph and of other numbers: sets, lists out of order, and lists with repetitions.
 func setsOf(g api.Graph) [][]int {
 	every := around(g)

@@ -7,6 +7,7 @@ import (
 
 	"cohesion/api"
 	"cohesion/graph"
+	"cohesion/probe"
 )
 
 // result is all the memory that a call returns.
@@ -22,16 +23,8 @@ func (r result) equals(other result) bool {
 }
 
 func (r result) spoil() {
-	spoil(r.edges, api.Edge{U: 77, V: 76})
-	spoil(r.nodes, -77)
-}
-
-// spoil changes all of the memory that a slice gives access to.
-func spoil[T any](l []T, by T) {
-	l = l[:cap(l)]
-	for i := range l {
-		l[i] = by
-	}
+	probe.Spoil(r.edges, api.Edge{U: 77, V: 76})
+	probe.Spoil(r.nodes, -79)
 }
 
 // calls are all functions, as functions of a graph and a set, with two different nodes where nodes are asked for.
@@ -63,15 +56,6 @@ var (
 	untouchedNode = -77
 )
 
-// guarded returns a copy of a list in an array that goes on behind it.
-func guarded[T any](l []T, behind T) []T {
-	return append(slices.Clone(l), behind, behind, behind)[:len(l)]
-}
-
-func isUnchanged[T comparable](l, before []T, behind T) bool {
-	return slices.Equal(l, before) && slices.Equal(l[:len(l)+3][len(l):], []T{behind, behind, behind})
-}
-
 // unordered is a list for Of, which the other functions refuse.
 func unordered() api.Graph { return graphOf(6, 5, 1, 1, 0, 0, 1, 4, 2, 1, 5, 0, 3) }
 
@@ -89,8 +73,8 @@ func eachCall(try func(name string, call func(g api.Graph, set []int) result, gi
 	for name, call := range calls() {
 		for _, given := range givenGraphs() {
 			for _, givenSet := range [][]int{nil, {0, 1}, {4, 1, 0, 1, -5, 2, 99}, {3, 3, 2, 1, 0, 0}} {
-				g := api.Graph{Nodes: given.Nodes, Edges: guarded(given.Edges, untouchedEdge)}
-				try(name, call, given, g, givenSet, guarded(givenSet, untouchedNode))
+				g := api.Graph{Nodes: given.Nodes, Edges: probe.Guarded(given.Edges, untouchedEdge)}
+				try(name, call, given, g, givenSet, probe.Guarded(givenSet, untouchedNode))
 			}
 		}
 	}
@@ -100,11 +84,11 @@ func eachCall(try func(name string, call func(g api.Graph, set []int) result, gi
 func TestArgumentsAreNotChanged(t *testing.T) {
 	eachCall(func(name string, call func(g api.Graph, set []int) result, given, g api.Graph, givenSet, set []int) {
 		got := call(g, set)
-		if !isUnchanged(g.Edges, given.Edges, untouchedEdge) || !isUnchanged(set, givenSet, untouchedNode) {
+		if !probe.IsUnchanged(g.Edges, given.Edges, untouchedEdge) || !probe.IsUnchanged(set, givenSet, untouchedNode) {
 			t.Errorf("%s(%v, %v) changes an argument", name, given, givenSet)
 		}
 		got.spoil()
-		if !isUnchanged(g.Edges, given.Edges, untouchedEdge) || !isUnchanged(set, givenSet, untouchedNode) {
+		if !probe.IsUnchanged(g.Edges, given.Edges, untouchedEdge) || !probe.IsUnchanged(set, givenSet, untouchedNode) {
 			t.Errorf("%s(%v, %v) shares its result with an argument", name, given, givenSet)
 		}
 	})
@@ -133,7 +117,7 @@ func TestNothingPanics(t *testing.T) {
 		}
 	}
 	for _, nodes := range append(numbers, 2, 65) {
-		for _, l := range append(listsOver(pairs, 2), edges(0, 1)) {
+		for _, l := range append(probe.Lists(pairs, 2), edges(0, 1)) {
 			g := api.Graph{Nodes: nodes, Edges: l}
 			for _, call := range calls() {
 				call(g, numbers)

@@ -6,6 +6,7 @@ import (
 
 	"cohesion/api"
 	"cohesion/graph"
+	"cohesion/probe"
 )
 
 func TestP3_3InducedInsideAndDensityOfExamples(t *testing.T) {
@@ -77,7 +78,7 @@ func checkPart(t *testing.T, g api.Graph, set []int) {
 
 func TestP3_3InducedInsideAndDensityAreTheirDefinitions(t *testing.T) {
 	for _, g := range smallGraphs() {
-		for _, set := range listsOver([]int{-1, 0, 1, 2, 3, 4}, 4) {
+		for _, set := range probe.Lists([]int{-1, 0, 1, 2, 3, 4}, 4) {
 			checkPart(t, g, set)
 		}
 	}

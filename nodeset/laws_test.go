@@ -6,11 +6,12 @@ import (
 	"testing"
 
 	"cohesion/nodeset"
+	"cohesion/probe"
 )
 
 // lawLists are few enough that all triples of them can be gone through.
 func lawLists() [][]int {
-	return append(listsOver([]int{0, 1, 2}, 2), []int{2, 0, 2, 1}, []int{-3, 64, -3}, []int{math.MaxInt, 1, math.MinInt}, []int{64, 2, -3})
+	return append(probe.Lists([]int{0, 1, 2}, 2), []int{2, 0, 2, 1}, []int{-3, 64, -3}, []int{math.MaxInt, 1, math.MinInt}, []int{64, 2, -3})
 }
 
 func sameSets(t *testing.T, law string, left, right []int, of ...[]int) {

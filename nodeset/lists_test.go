@@ -5,6 +5,7 @@ import (
 	"slices"
 
 	"cohesion/nodeset"
+	"cohesion/probe"
 )
 
 // operation is a function of two lists, with the rule by which a number belongs to its result.
@@ -22,26 +23,8 @@ func operations() []operation {
 	}
 }
 
-// listsOver returns all lists of at most length elements, each of them one of the numbers: nil, sets, lists out of
-// order and lists with repetitions.
-func listsOver(numbers []int, length int) [][]int {
-	all := [][]int{nil}
-	longest := all
-	for range length {
-		var longer [][]int
-		for _, l := range longest {
-			for _, x := range numbers {
-				longer = append(longer, append(slices.Clone(l), x))
-			}
-		}
-		all = append(all, longer...)
-		longest = longer
-	}
-	return all
-}
-
 // smallLists are all short lists of a few numbers, among them a negative one.
-func smallLists() [][]int { return listsOver([]int{-1, 0, 1, 2}, 3) }
+func smallLists() [][]int { return probe.Lists([]int{-1, 0, 1, 2}, 3) }
 
 // variedLists are a few lists of every kind that the document tells apart, with numbers of any size.
 func variedLists() [][]int {

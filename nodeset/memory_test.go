@@ -6,27 +6,14 @@ import (
 	"testing"
 
 	"cohesion/nodeset"
+	"cohesion/probe"
 )
 
-// untouched stands behind the end of guarded lists, where an append to an argument would write.
-const untouched = -77
-
-// guarded returns a copy of a list in an array that goes on behind it.
-func guarded(l []int) []int {
-	return append(slices.Clone(l), untouched, untouched, untouched)[:len(l)]
-}
-
-func isUnchanged(l, before []int) bool {
-	return slices.Equal(l, before) && slices.Equal(l[:len(l)+3][len(l):], []int{untouched, untouched, untouched})
-}
-
-// spoil changes all of the memory that a slice gives access to.
-func spoil(l []int) {
-	l = l[:cap(l)]
-	for i := range l {
-		l[i] = 1000 + i
-	}
-}
+// Numbers that occur in no list: one stands behind the ends of guarded lists, the other one is written over results.
+const (
+	untouched = -77
+	spoilt    = -78
+)
 
 // calls are all functions that take lists, as functions of two lists; those that return no list return nil.
 func calls() map[string]func(a, b []int) []int {
@@ -48,13 +35,13 @@ func TestArgumentsAreNotChanged(t *testing.T) {
 	for name, call := range calls() {
 		for _, a := range variedLists() {
 			for _, b := range variedLists() {
-				x, y := guarded(a), guarded(b)
+				x, y := probe.Guarded(a, untouched), probe.Guarded(b, untouched)
 				result := call(x, y)
-				if !isUnchanged(x, a) || !isUnchanged(y, b) {
+				if !probe.IsUnchanged(x, a, untouched) || !probe.IsUnchanged(y, b, untouched) {
 					t.Errorf("%s(%v, %v) changes an argument", name, a, b)
 				}
-				spoil(result)
-				if !isUnchanged(x, a) || !isUnchanged(y, b) {
+				probe.Spoil(result, spoilt)
+				if !probe.IsUnchanged(x, a, untouched) || !probe.IsUnchanged(y, b, untouched) {
 					t.Errorf("%s(%v, %v) shares its result with an argument", name, a, b)
 				}
 			}
@@ -67,12 +54,12 @@ func TestResultsAreNewMemory(t *testing.T) {
 	for name, call := range calls() {
 		for _, a := range variedLists() {
 			for _, b := range variedLists() {
-				x, y := guarded(a), guarded(b)
+				x, y := probe.Guarded(a, untouched), probe.Guarded(b, untouched)
 				result, other := call(x, y), call(x, y)
 				before := slices.Clone(result)
-				spoil(x)
-				spoil(y)
-				spoil(other)
+				probe.Spoil(x, spoilt)
+				probe.Spoil(y, spoilt)
+				probe.Spoil(other, spoilt)
 				if !slices.Equal(result, before) || !slices.Equal(call(a, b), before) {
 					t.Errorf("%s(%v, %v) shares its result", name, a, b)
 				}
@@ -100,7 +87,7 @@ func TestRangeIsNewMemoryInEachCall(t *testing.T) {
 	for _, nodes := range []int{1, 5, 64, 1000} {
 		first := nodeset.Range(nodes)
 		second := nodeset.Range(nodes)
-		spoil(first)
+		probe.Spoil(first, spoilt)
 		if want := counting(0, min(nodes, 64)); !slices.Equal(second, want) || !slices.Equal(nodeset.Range(nodes), want) {
 			t.Errorf("Range(%d) shares its result", nodes)
 		}
@@ -110,7 +97,7 @@ func TestRangeIsNewMemoryInEachCall(t *testing.T) {
 // R1: no arguments make a function panic.
 func TestNothingPanics(t *testing.T) {
 	numbers := []int{math.MinInt, math.MinInt + 1, -1, 0, 1, 64, math.MaxInt}
-	lists := append(listsOver(numbers, 2), variedLists()...)
+	lists := append(probe.Lists(numbers, 2), variedLists()...)
 	for _, a := range lists {
 		for _, x := range numbers {
 			nodeset.Valid(a, x)
