@@ -4,16 +4,11 @@ import (
 	"math"
 
 	"cohesion/api"
+	"cohesion/probe"
 )
 
-// set, cut and leave return the structs alone, valid or not, without the package under test.
-func set(time, u, v, weight, label, sign int) api.Event {
-	return api.Event{Kind: api.EvSet, Time: time, U: u, V: v, Weight: weight, Label: label, Sign: sign}
-}
-
-func cut(time, u, v int) api.Event { return api.Event{Kind: api.EvCut, Time: time, U: u, V: v} }
-
-func leave(time, u int) api.Event { return api.Event{Kind: api.EvLeave, Time: time, U: u} }
+// Events are written without the package under test.
+var set, cut, leave = probe.Set, probe.Cut, probe.Leave
 
 // few is a list with each kind, each sign, and fields at their limits.
 func few() []api.Event {
