@@ -31,17 +31,18 @@ const (
 	spoiltLabel    = -79
 )
 
-func (a arguments) guarded() arguments {
+// Guarded is for probe.Fault, as all methods of arguments and results are.
+func (a arguments) Guarded() arguments {
 	guarded := a.s
 	guarded.Links = probe.Guarded(a.s.Links, untouchedLink)
 	return arguments{guarded, probe.Guarded(a.l, untouchedEvent), probe.Guarded(a.labels, untouchedLabel)}
 }
 
-func (a arguments) areUnchanged(before arguments) bool {
+func (a arguments) AreUnchanged(before arguments) bool {
 	return probe.IsUnchanged(a.s.Links, before.s.Links, untouchedLink) && probe.IsUnchanged(a.l, before.l, untouchedEvent) && probe.IsUnchanged(a.labels, before.labels, untouchedLabel)
 }
 
-func (a arguments) spoil() {
+func (a arguments) Spoil() {
 	probe.Spoil(a.s.Links, spoiltLink)
 	probe.Spoil(a.l, spoiltEvent)
 	probe.Spoil(a.labels, spoiltLabel)
@@ -56,16 +57,16 @@ type result struct {
 	err     api.Errno
 }
 
-func (r result) clone() result {
+func (r result) Clone() result {
 	r.s.Links, r.g.Edges, r.changes = slices.Clone(r.s.Links), slices.Clone(r.g.Edges), slices.Clone(r.changes)
 	return r
 }
 
-func (r result) equals(other result) bool {
+func (r result) Equals(other result) bool {
 	return same(r.s, other.s) && r.g.Nodes == other.g.Nodes && slices.Equal(r.g.Edges, other.g.Edges) && slices.Equal(r.changes, other.changes) && r.number == other.number && r.err == other.err
 }
 
-func (r result) spoil() {
+func (r result) Spoil() {
 	probe.Spoil(r.s.Links, spoiltLink)
 	probe.Spoil(r.g.Edges, spoiltEdge)
 	probe.Spoil(r.changes, spoiltEvent)
@@ -113,43 +114,18 @@ func givenStates() []api.State {
 	return all
 }
 
-// eachCall tries all functions with guarded arguments.
-func eachCall(try func(name string, call func(a arguments) result, given, guarded arguments)) {
+// R2: neither by a call nor by a change of a result, and no result follows later changes of arguments or of another result.
+func TestNoMemoryIsChangedOrShared(t *testing.T) {
 	for name, call := range calls() {
 		for _, s := range givenStates() {
 			for i, l := range eventLists() {
 				given := arguments{s, l, labelLists()[i%len(labelLists())]}
-				try(name, call, given, given.guarded())
+				if fault := probe.Fault(call, given); fault != "" {
+					t.Errorf("%s(%+v) %s", name, given, fault)
+				}
 			}
 		}
 	}
-}
-
-// R2: neither by a call nor by a change of its result.
-func TestArgumentsAreNotChanged(t *testing.T) {
-	eachCall(func(name string, call func(a arguments) result, given, guarded arguments) {
-		got := call(guarded)
-		if !guarded.areUnchanged(given) {
-			t.Errorf("%s(%+v) changes an argument", name, given)
-		}
-		got.spoil()
-		if !guarded.areUnchanged(given) {
-			t.Errorf("%s(%+v) shares its result with an argument", name, given)
-		}
-	})
-}
-
-// R2: a result neither follows later changes of the arguments nor those of another result.
-func TestResultsAreNewMemory(t *testing.T) {
-	eachCall(func(name string, call func(a arguments) result, given, guarded arguments) {
-		got, other := call(guarded), call(guarded)
-		before := got.clone()
-		guarded.spoil()
-		other.spoil()
-		if !got.equals(before) || !call(given).equals(before) {
-			t.Errorf("%s(%+v) shares its result", name, given)
-		}
-	})
 }
 
 // R2: a nil list and an empty one are equivalent.
@@ -158,7 +134,7 @@ func TestNilAndEmptyListsAreEquivalent(t *testing.T) {
 		bare, empty := state(nodes), api.State{Nodes: nodes, Links: []api.Link{}}
 		for name, call := range calls() {
 			for _, l := range eventLists() {
-				if !call(arguments{s: bare, l: l}).equals(call(arguments{empty, l, []int{}})) {
+				if !call(arguments{s: bare, l: l}).Equals(call(arguments{empty, l, []int{}})) {
 					t.Errorf("%s of %d nodes without links has two results", name, nodes)
 				}
 			}
@@ -166,7 +142,7 @@ func TestNilAndEmptyListsAreEquivalent(t *testing.T) {
 	}
 	for _, s := range validStates() {
 		for name, call := range calls() {
-			if !call(arguments{s: s}).equals(call(arguments{s, []api.Event{}, []int{}})) {
+			if !call(arguments{s: s}).Equals(call(arguments{s, []api.Event{}, []int{}})) {
 				t.Errorf("%s(%+v) has two results", name, s)
 			}
 		}
