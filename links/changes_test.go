@@ -160,20 +160,23 @@ func TestP5_2NodesThatDoNotExist(t *testing.T) {
 
 func TestP5_2ApplyReturnsItsErrorsInOrder(t *testing.T) {
 	s := state(4, plain(0, 1), plain(0, 3), plain(1, 2))
-	for _, c := range wrongEvents() {
-		checkApply(t, s, c.e, api.State{}, nil, c.want)
-		checkApply(t, state(0), c.e, api.State{}, nil, c.want)
-		checkApply(t, state(64), c.e, api.State{}, nil, c.want)
+	for _, c := range probe.WrongEvents() {
+		checkApply(t, s, c.Event, api.State{}, nil, c.Err)
+		checkApply(t, state(0), c.Event, api.State{}, nil, c.Err)
+		checkApply(t, state(64), c.Event, api.State{}, nil, c.Err)
 	}
-	for _, c := range flawedStates() {
+	for _, c := range probe.FlawedStates() {
 		for _, e := range []api.Event{cut(9, 0, 1), set(9, 0, 2, 1, 0, 1), leave(9, 1), leave(9, 63), cut(9, 1, 63)} {
-			checkApply(t, c.s, e, api.State{}, nil, c.want)
+			checkApply(t, c.State, e, api.State{}, nil, c.Err)
 		}
-		for _, e := range wrongEvents() {
-			checkApply(t, c.s, e.e, api.State{}, nil, c.want)
+		for _, e := range probe.WrongEvents() {
+			checkApply(t, c.State, e.Event, api.State{}, nil, c.Err)
 		}
 	}
-	for _, c := range []wrongEvent{
+	for _, c := range []struct {
+		e    api.Event
+		want api.Errno
+	}{
 		{set(9, 0, 4, 0, 0, 1), api.ErrRange}, {set(9, 4, 0, 1, 16, 1), api.ErrRange}, {set(-1, 0, 4, 1, 0, 1), api.ErrTime}, {cut(-1, 0, 4), api.ErrTime}, {api.Event{Kind: 7, U: 4}, api.ErrKind},
 		{set(9, 0, 4, 1, 0, 1), api.ErrNode}, {set(9, 4, 0, 1, 0, 1), api.ErrNode}, {cut(9, 4, 5), api.ErrNode}, {cut(9, 3, 63), api.ErrNode}, {leave(9, 4), api.ErrNode}, {leave(9, 63), api.ErrNode},
 	} {
@@ -233,27 +236,30 @@ func TestP5_3AllIsItsDefinition(t *testing.T) {
 func TestP5_3AllReturnsTheIndexOfTheFirstEventWithAnError(t *testing.T) {
 	s := state(4, plain(0, 1), plain(0, 3), plain(1, 2))
 	good := []api.Event{leave(9, 0), set(9, 3, 2, 1, 0, 1), cut(9, 0, 1), set(8, 1, 0, 1, 0, 1), cut(9, 2, 1)}
-	wrong := append(wrongEvents(), wrongEvent{set(9, 0, 4, 1, 0, 1), api.ErrNode}, wrongEvent{cut(9, 63, 1), api.ErrNode}, wrongEvent{leave(9, 4), api.ErrNode})
+	wrong := probe.WrongEvents()
+	for _, e := range []api.Event{set(9, 0, 4, 1, 0, 1), cut(9, 63, 1), leave(9, 4)} {
+		wrong = append(wrong, probe.WrongEvent{Event: e, Err: api.ErrNode})
+	}
 	for _, first := range wrong {
 		for at := range len(good) + 1 {
-			l := slices.Insert(slices.Clone(good), at, first.e)
-			checkAll(t, s, l, api.State{}, at, first.want)
+			l := slices.Insert(slices.Clone(good), at, first.Event)
+			checkAll(t, s, l, api.State{}, at, first.Err)
 			for _, second := range wrong {
-				checkAll(t, s, append(slices.Clone(l), second.e), api.State{}, at, first.want)
-				checkAll(t, s, slices.Insert(slices.Clone(l), at+1, second.e), api.State{}, at, first.want)
+				checkAll(t, s, append(slices.Clone(l), second.Event), api.State{}, at, first.Err)
+				checkAll(t, s, slices.Insert(slices.Clone(l), at+1, second.Event), api.State{}, at, first.Err)
 			}
 		}
 	}
 }
 
 func TestP5_3AllOfStatesThatAreNotValid(t *testing.T) {
-	for _, c := range flawedStates() {
-		checkAll(t, c.s, nil, api.State{}, 0, c.want)
-		checkAll(t, c.s, []api.Event{}, api.State{}, 0, c.want)
-		checkAll(t, c.s, []api.Event{cut(9, 0, 1), leave(9, 1)}, api.State{}, 0, c.want)
-		for _, e := range wrongEvents() {
-			checkAll(t, c.s, []api.Event{e.e}, api.State{}, 0, c.want)
-			checkAll(t, c.s, []api.Event{cut(9, 0, 1), e.e}, api.State{}, 0, c.want)
+	for _, c := range probe.FlawedStates() {
+		checkAll(t, c.State, nil, api.State{}, 0, c.Err)
+		checkAll(t, c.State, []api.Event{}, api.State{}, 0, c.Err)
+		checkAll(t, c.State, []api.Event{cut(9, 0, 1), leave(9, 1)}, api.State{}, 0, c.Err)
+		for _, e := range probe.WrongEvents() {
+			checkAll(t, c.State, []api.Event{e.Event}, api.State{}, 0, c.Err)
+			checkAll(t, c.State, []api.Event{cut(9, 0, 1), e.Event}, api.State{}, 0, c.Err)
 		}
 	}
 }

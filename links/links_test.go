@@ -35,8 +35,8 @@ func TestP5_1CheckAcceptsValidStates(t *testing.T) {
 }
 
 func TestP5_1CheckReturnsTheFirstError(t *testing.T) {
-	for _, c := range flawedStates() {
-		checkCheck(t, c.s, c.want)
+	for _, c := range probe.FlawedStates() {
+		checkCheck(t, c.State, c.Err)
 	}
 }
 
@@ -145,7 +145,10 @@ func TestP5_1EachLinkIsChecked(t *testing.T) {
 }
 
 func TestP5_1TheOrderOfLinksIsThatOfTheirEdgesAlone(t *testing.T) {
-	for _, c := range []flawed{
+	for _, c := range []struct {
+		s    api.State
+		want api.Errno
+	}{
 		{state(4, link(0, 1, 9, 9, 1, 9), link(0, 2, 1, 0, -1, 0)), api.OK},
 		{state(4, link(0, 3, 9, 9, 1, 9), link(1, 2, 1, 0, -1, 0)), api.OK},
 		{state(4, link(0, 1, 1, 0, -1, 0), link(0, 1, 9, 9, 1, 9)), api.ErrOrder},

@@ -7,6 +7,7 @@ import (
 
 	"cohesion/api"
 	"cohesion/links"
+	"cohesion/probe"
 )
 
 func TestP5_4FindGraphAndWhereOfExamples(t *testing.T) {
@@ -134,17 +135,17 @@ func TestP5_4LabelsMayBeALongList(t *testing.T) {
 }
 
 func TestP5_4LooksAtStatesThatAreNotValid(t *testing.T) {
-	for _, c := range flawedStates() {
+	for _, c := range probe.FlawedStates() {
 		for _, ends := range [][2]int{{0, 1}, {1, 0}, {0, 2}, {2, 0}, {1, 2}, {0, 3}, {-1, 0}, {1, 1}, {0, 64}} {
-			if got := links.Find(c.s, ends[0], ends[1]); got != -1 {
-				t.Errorf("Find(%+v, %d, %d) = %d", c.s, ends[0], ends[1], got)
+			if got := links.Find(c.State, ends[0], ends[1]); got != -1 {
+				t.Errorf("Find(%+v, %d, %d) = %d", c.State, ends[0], ends[1], got)
 			}
 		}
-		checkGraph(t, c.s, api.Graph{}, c.want)
+		checkGraph(t, c.State, api.Graph{}, c.Err)
 		for _, labels := range labelLists() {
-			checkWhere(t, c.s, labels, 0, 0, api.State{}, c.want)
-			checkWhere(t, c.s, labels, -1, 1, api.State{}, c.want)
-			checkWhere(t, c.s, labels, 5, 1001, api.State{}, c.want)
+			checkWhere(t, c.State, labels, 0, 0, api.State{}, c.Err)
+			checkWhere(t, c.State, labels, -1, 1, api.State{}, c.Err)
+			checkWhere(t, c.State, labels, 5, 1001, api.State{}, c.Err)
 		}
 	}
 }

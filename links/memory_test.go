@@ -99,8 +99,8 @@ func eventLists() [][]api.Event {
 		nil, {}, {set(9, 3, 2, 4, 5, 1), cut(9, 1, 0), leave(9, 3), set(8, 1, 0, 1, 2, -1)}, {set(9, 1, 0, 4, 5, 1), set(9, 0, 1, 4, 5, 1)}, {set(7, 1, 0, 3, 2, -1)},
 		{cut(9, 1, 0), cut(9, 2, 0)}, {cut(9, 3, 1), leave(9, 2)}, {leave(9, 1), leave(9, 0), leave(9, 0)}, {set(9, 0, 2, 1, 0, 1)}, {leave(9, 2)}, {set(9, 0, 1, 1, 0, 1), leave(9, 63)},
 	}
-	for _, c := range wrongEvents() {
-		lists = append(lists, []api.Event{c.e}, []api.Event{cut(9, 1, 0), c.e, cut(9, 3, 1)})
+	for _, c := range probe.WrongEvents() {
+		lists = append(lists, []api.Event{c.Event}, []api.Event{cut(9, 1, 0), c.Event, cut(9, 3, 1)})
 	}
 	return lists
 }
@@ -108,8 +108,8 @@ func eventLists() [][]api.Event {
 // givenStates are states of all kinds, few enough that each is tried with many lists.
 func givenStates() []api.State {
 	all := slices.Concat(statesOf(2), statesOf(3), statesOf(4)[700:], largerStates(), []api.State{state(4, plain(0, 1)), state(4, plain(0, 1), plain(1, 3), plain(2, 3))})
-	for _, c := range flawedStates() {
-		all = append(all, c.s)
+	for _, c := range probe.FlawedStates() {
+		all = append(all, c.State)
 	}
 	return all
 }

@@ -1,4 +1,4 @@
-// Package probe contains what the tests of several layers share: lists of every kind, lists and calls whose memory is watched, and events. No layer calls it.
+// Package probe contains what the tests of several layers share: lists of every kind, lists and calls whose memory is watched, events and states. No layer calls it.
 package probe
 
 import "slices"
