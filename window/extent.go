@@ -1,9 +1,6 @@
 package window
 
-import (
-	"cohesion/api"
-	"cohesion/event"
-)
+import "cohesion/api"
 
 // endless is a width at which no link expires: at no time is a link that old.
 const endless = api.MaxTime + 1
@@ -56,30 +53,6 @@ func checkTime(s api.State, time int) api.Errno {
 		if time < link.Time {
 			return api.ErrTime
 		}
-	}
-	return api.OK
-}
-
-// checkStream returns the first error of events that happen to so many nodes, one after the other.
-func checkStream(nodes int, l []api.Event) api.Errno {
-	switch {
-	case nodes < 0 || nodes > api.MaxNodes:
-		return api.ErrRange
-	case len(l) > api.MaxEvents:
-		return api.ErrLimit
-	}
-	latest := 0
-	for _, e := range l {
-		if err := event.Check(e); err != api.OK {
-			return err
-		}
-		switch {
-		case e.U >= nodes || e.V >= nodes:
-			return api.ErrNode
-		case e.Time < latest:
-			return api.ErrTime
-		}
-		latest = e.Time
 	}
 	return api.OK
 }

@@ -1,7 +1,6 @@
 package window_test
 
 import (
-	"math"
 	"slices"
 	"testing"
 
@@ -255,105 +254,48 @@ func TestP7_3TheMostLinks(t *testing.T) {
 	checkSlide(t, 64, l, last(2016), l, api.OK)
 }
 
-func TestP7_3TooManyEvents(t *testing.T) {
+// The limit is that of the events that are given, not that of what is put out.
+func TestP7_3WhatIsPutOutHasNoLimit(t *testing.T) {
 	most := slices.Repeat([]api.Event{setAt(3, 0, 1)}, 1<<16)
 	for _, w := range []api.Window{whole(), age(1), age(1 << 20), last(1), last(2016)} {
 		checkSlide(t, 2, most, w, most, api.OK)
-		for _, more := range []api.Event{setAt(3, 0, 1), leave(9, 1), {}, setAt(2, 0, 1), leave(3, 2)} {
-			checkSlide(t, 2, append(most[:1<<16:1<<16], more), w, nil, api.ErrLimit)
-		}
-		checkSlide(t, 2, make([]api.Event, 1<<16+1), w, nil, api.ErrLimit)
-		checkSlide(t, 2, make([]api.Event, 1<<16), w, nil, api.ErrKind)
-		checkSlide(t, 2, slices.Repeat(most, 3), w, nil, api.ErrLimit)
 	}
-	// The limit is that of the events that are given, not that of what is put out.
 	if got, err := window.Slide(2, most, last(0)); len(got) != 1<<17 || err != api.OK {
 		t.Errorf("with a cut behind each event, %s, error %d", list(got), err)
 	}
 }
 
-func TestP7_3NumbersOfNodes(t *testing.T) {
-	for _, nodes := range []int{math.MinInt, -1 << 32, -64, -2, -1, 65, 66, 256, 1 << 32, math.MaxInt} {
-		for _, w := range []api.Window{whole(), age(3), last(1)} {
-			for _, l := range [][]api.Event{nil, {setAt(3, 0, 1)}, {{}}, {leave(3, 0), leave(2, 0)}, make([]api.Event, 1<<16+1)} {
-				checkSlide(t, nodes, l, w, nil, api.ErrRange)
-			}
-		}
-	}
-}
-
-func TestP7_3NodesThatDoNotExist(t *testing.T) {
+func TestP7_3AllNodesThatExist(t *testing.T) {
 	for nodes := range 65 {
-		for x := range 64 {
-			y := 0 // the other end, which exists if x does and another node too
-			if x == 0 {
-				y = 1
+		for x := range nodes {
+			l := []api.Event{leave(4, x)}
+			for y := range x {
+				l = append(l, cut(4, x, y), cut(4, y, x))
 			}
-			for _, e := range []api.Event{setAt(4, x, y), setAt(4, y, x), cut(4, x, y), cut(4, y, x), leave(4, x)} {
-				for _, w := range []api.Window{whole(), age(3), last(1)} {
-					if e.U < nodes && e.V < nodes {
-						checkSlide(t, nodes, []api.Event{e}, w, []api.Event{e}, api.OK)
-					} else {
-						checkSlide(t, nodes, []api.Event{e}, w, nil, api.ErrNode)
-					}
-				}
-			}
-		}
-	}
-}
-
-// goodStream is one in which each of the events may be followed by a wrong one, at the time 9.
-func goodStream() []api.Event {
-	return []api.Event{setAt(1, 0, 1), cut(2, 2, 0), setAt(2, 2, 1), leave(5, 3), setAt(7, 3, 1), leave(9, 1)}
-}
-
-func TestP7_3TheFirstWrongEventDecides(t *testing.T) {
-	wrong := probe.WrongEvents()
-	for _, e := range []api.Event{setAt(9, 0, 4), setAt(9, 4, 0), cut(9, 63, 1), leave(9, 4), setAt(0, 4, 0), leave(0, 4)} {
-		wrong = append(wrong, probe.WrongEvent{Event: e, Err: api.ErrNode})
-	}
-	for _, first := range wrong {
-		for at := range len(goodStream()) + 1 {
-			l := slices.Insert(goodStream(), at, first.Event)
 			for _, w := range []api.Window{whole(), age(3), last(1)} {
-				checkSlide(t, 4, l, w, nil, first.Err)
-				checkSlide(t, 4, slices.Insert(slices.Clone(l), at+1, leave(0, 1), api.Event{}), w, nil, first.Err)
-				for _, second := range wrong {
-					checkSlide(t, 4, append(slices.Clone(l), second.Event), w, nil, first.Err)
-				}
+				checkSlide(t, nodes, l, w, l, api.OK)
 			}
 		}
 	}
 }
 
-func TestP7_3TimesThatDescend(t *testing.T) {
-	good := goodStream()
-	for at := 1; at <= len(good); at++ {
-		for _, e := range []api.Event{setAt(good[at-1].Time-1, 0, 1), cut(0, 1, 2), leave(good[at-1].Time-1, 2)} {
-			l := slices.Insert(slices.Clone(good), at, e)
-			for _, w := range []api.Window{whole(), age(1), age(100), last(0), last(5)} {
-				checkSlide(t, 4, l, w, nil, api.ErrTime)
-				checkSlide(t, 4, append(slices.Clone(l), api.Event{}), w, nil, api.ErrTime)
-				checkSlide(t, 4, append(slices.Clone(l), leave(9, 4)), w, nil, api.ErrTime)
-			}
+func TestP7_3StreamsThatAreNotValid(t *testing.T) {
+	for _, w := range []api.Window{whole(), age(1), age(100), last(0), last(5)} {
+		for _, f := range probe.FlawedStreams() {
+			checkSlide(t, f.Nodes, f.Events, w, nil, f.Err)
 		}
 	}
-	// The time before counts, not the greatest one of links; and times may stay.
-	checkSlide(t, 4, []api.Event{leave(1<<20, 1), leave(1<<20-1, 1)}, age(3), nil, api.ErrTime)
-	checkSlide(t, 4, []api.Event{leave(0, 1), leave(0, 1), leave(1<<20, 1), leave(1<<20, 1)}, age(3), []api.Event{leave(0, 1), leave(0, 1), leave(1<<20, 1), leave(1<<20, 1)}, api.OK)
-	// An event that is not valid, or whose node does not exist, is not asked for its time.
-	for _, x := range []struct {
-		e    api.Event
-		want api.Errno
-	}{{api.Event{Time: 3}, api.ErrKind}, {cut(3, 1, 1), api.ErrNode}, {set(3, 1, 2, 0, 0, 1), api.ErrRange}, {setAt(3, 1, 4), api.ErrNode}, {leave(3, 63), api.ErrNode}, {leave(3, 3), api.ErrTime}, {cut(-1, 1, 4), api.ErrTime}} {
-		checkSlide(t, 4, []api.Event{leave(5, 1), x.e}, age(3), nil, x.want)
-	}
+}
+
+func TestP7_3TimesMayStay(t *testing.T) {
+	l := []api.Event{leave(0, 1), leave(0, 1), leave(1<<20, 1), leave(1<<20, 1)}
+	checkSlide(t, 4, l, age(3), l, api.OK)
 }
 
 func TestP7_3ErrorsOfWindowsComeFirst(t *testing.T) {
 	for _, c := range flawedWindows() {
 		for _, nodes := range []int{-1, 0, 4, 64, 65} {
-			for _, l := range [][]api.Event{nil, goodStream(), {{}}, {leave(3, 63), leave(2, 0)}, make([]api.Event, 1<<16+1)} {
+			for _, l := range [][]api.Event{nil, probe.GoodStream(), {{}}, {leave(3, 63), leave(2, 0)}, make([]api.Event, 1<<16+1)} {
 				checkSlide(t, nodes, l, c.w, nil, c.want)
 			}
 		}

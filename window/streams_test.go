@@ -14,14 +14,10 @@ import (
 // Events and states are written without the package under test.
 var (
 	set, cut, leave            = probe.Set, probe.Cut, probe.Leave
+	setAt, linkAt              = probe.SetAt, probe.LinkAt
 	link, state, stateBy, same = probe.Link, probe.State, probe.StateBy, probe.SameState
+	longStream, longStreams    = probe.LongStream, probe.LongStreams
 )
-
-// setAt returns the event that a link is set, with attributes that do not matter.
-func setAt(time, u, v int) api.Event { return set(time, u, v, 1, 0, 1) }
-
-// linkAt returns a link with attributes that do not matter.
-func linkAt(u, v, time int) api.Link { return link(u, v, 1, 0, 1, time) }
 
 // whole, age and last return windows of each kind, right or not.
 func whole() api.Window          { return api.Window{Kind: 1} }
@@ -193,58 +189,7 @@ func wrongTimes() []int {
 	return []int{math.MinInt, math.MinInt + 1, -1 << 32, -1 << 20, -2, -1, 1<<20 + 1, 1 << 21, 1 << 32, math.MaxInt - 1, math.MaxInt}
 }
 
-// eventsOf are what happens to three nodes in short streams, at the time 0.
-func eventsOf() []api.Event {
-	return []api.Event{setAt(0, 0, 1), setAt(0, 2, 0), set(0, 1, 2, 7, 3, -1), cut(0, 1, 0), leave(0, 2)}
-}
-
-// eachStream tries all short streams of events that happen to three nodes, each of them at once or some time behind the one
-// before it.
+// eachStream tries all short streams of events that happen to three nodes.
 func eachStream(length int, steps []int, try func(l []api.Event)) {
-	var happenings []api.Event
-	for _, e := range eventsOf() {
-		for _, step := range steps {
-			e.Time = step
-			happenings = append(happenings, e)
-		}
-	}
-	for _, l := range probe.Lists(happenings, length) {
-		for i := range l[:max(1, len(l))-1] {
-			l[i+1].Time += l[i].Time
-		}
-		try(l)
-	}
-}
-
-// longStream returns a number of events that happen to a number of nodes, with up to a number of times between two of them; most
-// of them are sets, also of links that are there.
-func longStream(count, nodes, step int) []api.Event {
-	var l []api.Event
-	x, time := 7, 0
-	for i := range count {
-		x = (x*1103515245 + 12345) % (1 << 31)
-		time += x >> 16 % (step + 1)
-		u, v := x>>8%nodes, x>>14%nodes
-		switch {
-		case x>>20%40 == 0:
-			l = append(l, leave(time, u))
-		case u == v:
-			l = append(l, setAt(time, u, (u+1)%nodes))
-		case x>>20%6 == 0:
-			l = append(l, cut(time, u, v))
-		default:
-			l = append(l, set(time, u, v, 1+i%1000, i%16, 1-i%2*2))
-		}
-	}
-	return l
-}
-
-// longStreams are streams of several kinds, with the number of nodes they happen to.
-func longStreams() map[int][][]api.Event {
-	return map[int][][]api.Event{
-		2:  {longStream(60, 2, 3)},
-		5:  {longStream(300, 5, 0), longStream(300, 5, 1), longStream(300, 5, 9), longStream(200, 5, 5000)},
-		20: {longStream(600, 20, 2), longStream(400, 20, 30)},
-		64: {longStream(300, 64, 1), longStream(700, 64, 5)},
-	}
+	probe.EachStream([]api.Event{setAt(0, 0, 1), setAt(0, 2, 0), set(0, 1, 2, 7, 3, -1), cut(0, 1, 0), leave(0, 2)}, length, steps, try)
 }
